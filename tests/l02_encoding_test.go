@@ -69,16 +69,16 @@ var notVarints = []struct {
 	{"largest in 6 groups", []byte{255, 255, 255, 255, 255, 127}},
 }
 
-// roomy returns a slice with the content of b and spare capacity, and a function that tells
+// roomy returns a slice with the content of list and spare capacity, and a function that tells
 // whether content and spare capacity are as they were.
-func roomy(b []byte) ([]byte, func() bool) {
-	whole := append(slices.Clone(b), bytes.Repeat([]byte{0xa5}, 200)...)
+func roomy[T byte | int](list []T) ([]T, func() bool) {
+	whole := append(slices.Clone(list), slices.Repeat([]T{0xa5}, 200)...)
 	before := slices.Clone(whole)
-	return whole[:len(b)], func() bool { return bytes.Equal(whole, before) }
+	return whole[:len(list)], func() bool { return slices.Equal(whole, before) }
 }
 
 // checkFresh fills result and its spare capacity and reports an error if an argument changes by that.
-func checkFresh(t *testing.T, name string, result []byte, unchanged func() bool) {
+func checkFresh[T byte | int](t *testing.T, name string, result []T, unchanged func() bool) {
 	t.Helper()
 	if !unchanged() {
 		t.Errorf("%s changes its argument or the spare capacity behind it", name)
