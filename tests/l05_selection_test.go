@@ -14,7 +14,8 @@ import (
 var notBits = []int{2, 3, -1, -2, 127, 128, 255, 256, 257, 1 << 32, 1<<32 + 1, 1 << 62, impl.MaxValue, -impl.MaxValue,
 	math.MaxInt, math.MaxInt - 1, math.MinInt, math.MinInt + 1}
 
-// notRows lists integers that are no number of rows.
+// notRows lists integers that are no number of rows. Those just beyond the limits come first: a test
+// that makes selections stops there, before a missing limit costs gigabytes.
 var notRows = []int{-1, -2, -impl.MaxRows, -impl.MaxRows - 1, impl.MaxRows + 1, impl.MaxRows + 2, 100, 255, 256, 257, 1 << 32,
 	1<<32 + 3, 1 << 62, impl.MaxValue, -impl.MaxValue, math.MaxInt, math.MaxInt - 1, math.MinInt, math.MinInt + 1}
 
@@ -202,17 +203,17 @@ func TestUnitSelectionOfEveryRow(t *testing.T) {
 	for _, n := range notRows {
 		for index := range 70 {
 			if got := impl.UnitSelection(n, index); len(got) != 0 {
-				t.Errorf("UnitSelection(%d, %d) = %v", n, index, got)
+				t.Fatalf("UnitSelection(%d, %d) = %v", n, index, got)
 			}
 		}
 		for rows := range 70 {
 			if got := impl.UnitSelection(rows, n); len(got) != 0 {
-				t.Errorf("UnitSelection(%d, %d) = %v", rows, n, got)
+				t.Fatalf("UnitSelection(%d, %d) = %v", rows, n, got)
 			}
 		}
 		for _, index := range []int{n - 1, n, n + 1, -n} {
 			if got := impl.UnitSelection(n, index); len(got) != 0 {
-				t.Errorf("UnitSelection(%d, %d) = %v", n, index, got)
+				t.Fatalf("UnitSelection(%d, %d) = %v", n, index, got)
 			}
 		}
 	}
@@ -366,7 +367,7 @@ func TestRandomSelectionOutOfRange(t *testing.T) {
 	for _, seed := range someKeys {
 		for _, rows := range notRows {
 			if got := impl.RandomSelection(seed, rows); len(got) != 0 {
-				t.Errorf("RandomSelection(%d, %d) has %d elements", seed, rows, len(got))
+				t.Fatalf("RandomSelection(%d, %d) has %d elements", seed, rows, len(got))
 			}
 		}
 	}
