@@ -92,6 +92,21 @@ func checkFresh[T byte | int](t *testing.T, name string, result []T, unchanged f
 	}
 }
 
+// checkAgain writes over a result and its spare capacity and reports an error if a later call returns
+// something else.
+func checkAgain[T byte | int](t *testing.T, name string, call func() []T) {
+	t.Helper()
+	first := call()
+	before := slices.Clone(first)
+	whole := first[:cap(first)]
+	for i := range whole {
+		whole[i] = 77
+	}
+	if got := call(); !slices.Equal(got, before) {
+		t.Errorf("%s is %v after an earlier result was written to, want %v", name, got, before)
+	}
+}
+
 func TestAppendUvarint(t *testing.T) {
 	for _, c := range varints {
 		for _, prefix := range [][]byte{nil, {}, {9}, {128}, {1, 2, 3}} {

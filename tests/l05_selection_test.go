@@ -2,6 +2,7 @@ package tests
 
 import (
 	"bytes"
+	"fmt"
 	"math"
 	"math/big"
 	"slices"
@@ -780,15 +781,7 @@ func TestSelectionsAreFresh(t *testing.T) {
 		func() []int { v, _ := impl.UnpackSelection(packed); return v },
 	}
 	for i, result := range results {
-		first := result()
-		before := slices.Clone(first)
-		whole := first[:cap(first)]
-		for j := range whole {
-			whole[j] = 77
-		}
-		if got := result(); !slices.Equal(got, before) {
-			t.Errorf("result %d is %v after an earlier one was written to, want %v", i, got, before)
-		}
+		checkAgain(t, fmt.Sprintf("result %d", i), result)
 	}
 	if !bytes.Equal(packed, []byte{9, 9, 1}) {
 		t.Errorf("UnpackSelection changes its argument to %v", packed)

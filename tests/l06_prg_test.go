@@ -632,20 +632,7 @@ func TestPuncturedLeafLeavesSiblings(t *testing.T) {
 	}
 }
 
-// checkAgain writes over a result and the spare capacity behind it, and reports an error if a later call returns something else.
-func checkAgain[T byte | int](t *testing.T, name string, call func() []T) {
-	t.Helper()
-	first := call()
-	before := slices.Clone(first)
-	whole := first[:cap(first)]
-	for i := range whole {
-		whole[i] = 77
-	}
-	if got := call(); !slices.Equal(got, before) {
-		t.Errorf("%s is %v after an earlier result was written to, want %v", name, got, before)
-	}
-}
-
+// A tree or a stream that is written to is not what a later call returns.
 func TestTreesAreFresh(t *testing.T) {
 	for depth := range 8 {
 		checkAgain(t, "LeafSeeds", func() []int { return impl.LeafSeeds(9, depth) })
