@@ -59,10 +59,10 @@ func extended(b []byte, length int) []byte {
 
 // roomyList returns a list with the elements of list and spare capacity behind it and behind each
 // element, and a function that tells whether all of it is as it was.
-func roomyList(list [][]byte) ([][]byte, func() bool) {
-	var whole [][]byte
+func roomyList[T byte | int](list [][]T) ([][]T, func() bool) {
+	var whole [][]T
 	var checks []func() bool
-	add := func(element []byte) {
+	add := func(element []T) {
 		spare, unchanged := roomy(element)
 		whole = append(whole, spare)
 		checks = append(checks, unchanged)
@@ -71,7 +71,7 @@ func roomyList(list [][]byte) ([][]byte, func() bool) {
 		add(element)
 	}
 	for range 20 {
-		add([]byte{0xa5})
+		add([]T{0xa5})
 	}
 	before := slices.Clone(whole)
 	return whole[:len(list)], func() bool {
@@ -87,16 +87,16 @@ func roomyList(list [][]byte) ([][]byte, func() bool) {
 
 // checkFreshList fills the elements of result one by one, and then its places, and reports an error
 // if an argument or another element changes by that.
-func checkFreshList(t *testing.T, name string, result [][]byte, unchanged func() bool) {
+func checkFreshList[T byte | int](t *testing.T, name string, result [][]T, unchanged func() bool) {
 	t.Helper()
-	var before [][]byte
+	var before [][]T
 	for _, element := range result {
 		before = append(before, slices.Clone(element[:cap(element)]))
 	}
 	for i, element := range result {
 		checkFresh(t, name, element, unchanged)
 		for j, other := range result {
-			if j != i && !bytes.Equal(other[:cap(other)], before[j]) {
+			if j != i && !slices.Equal(other[:cap(other)], before[j]) {
 				t.Fatalf("the elements %d and %d of the result of %s share memory", i, j, name)
 			}
 		}
@@ -104,7 +104,7 @@ func checkFreshList(t *testing.T, name string, result [][]byte, unchanged func()
 	}
 	whole := result[:cap(result)]
 	for i := range whole {
-		whole[i] = []byte{0x5a}
+		whole[i] = []T{0x5a}
 	}
 	if !unchanged() {
 		t.Errorf("the result of %s shares its places with an argument", name)

@@ -85,9 +85,9 @@ func without[T any](list []T, index int) []T {
 	return slices.Concat(list[:index], list[index+1:])
 }
 
-// sameList reports whether the elements are the same bytes; it does not use the package under test.
-func sameList(a [][]byte, b [][]byte) bool {
-	return slices.EqualFunc(a, b, bytes.Equal)
+// sameList reports whether the elements have the same content; it does not use the package under test.
+func sameList[T byte | int](a [][]T, b [][]T) bool {
+	return slices.EqualFunc(a, b, slices.Equal[[]T])
 }
 
 // checkJoined reports an error if the shares do not yield the secret.
