@@ -646,22 +646,38 @@ func TestOpenInvitationRejectsCallee(t *testing.T) {
 	}
 }
 
+// otherSizes lists cells of other lengths: parts of the cell, longer ones that contain it, and zeros.
+func otherSizes(cell []byte) [][]byte {
+	list := [][]byte{nil, {}}
+	for length := range 24 {
+		list = append(list, cell[:length], cell[24-length:], make([]byte, length))
+	}
+	for _, length := range []int{25, 26, 28, 47, 48, 72, 280, 24 + 1<<16} {
+		list = append(list, extended(cell, length), bytes.Repeat(cell, length/24+1)[:length], append(make([]byte, length-24), cell...))
+	}
+	return list
+}
+
+// changedCells lists the cells in which one byte is changed, each to every other value.
+func changedCells(cell []byte) [][]byte {
+	var list [][]byte
+	for place := range cell {
+		for change := 1; change < 256; change++ {
+			changed := slices.Clone(cell)
+			changed[place] ^= byte(change)
+			list = append(list, changed)
+		}
+	}
+	return list
+}
+
 // Cells of every other length, in front of which or at the beginning of which an invitation is.
 func TestOpenInvitationSizes(t *testing.T) {
 	a, b := person(100), person(200)
 	cell := invited(t, a, b.Public, 5)
-	for length := range 24 {
-		rejectInvited(t, b, []int{a.Public}, 5, cell[:length])
-		rejectInvited(t, b, []int{a.Public}, 5, cell[24-length:])
-		rejectInvited(t, b, []int{a.Public}, 5, make([]byte, length))
+	for _, other := range otherSizes(cell) {
+		rejectInvited(t, b, []int{a.Public}, 5, other)
 	}
-	for _, length := range []int{25, 26, 28, 47, 48, 72, 280, 24 + 1<<16} {
-		rejectInvited(t, b, []int{a.Public}, 5, extended(cell, length))
-		rejectInvited(t, b, []int{a.Public}, 5, bytes.Repeat(cell, length/24+1)[:length])
-		rejectInvited(t, b, []int{a.Public}, 5, append(make([]byte, length-24), cell...))
-	}
-	rejectInvited(t, b, []int{a.Public}, 5, nil)
-	rejectInvited(t, b, []int{a.Public}, 5, []byte{})
 	rejectInvited(t, b, []int{a.Public}, 5, make([]byte, 24))
 	checkInvited(t, b, []int{a.Public}, 5, cell, 0, 449993300)
 }
@@ -670,12 +686,10 @@ func TestOpenInvitationSizes(t *testing.T) {
 func TestOpenInvitationChanged(t *testing.T) {
 	a, b := person(100), person(200)
 	cell := invited(t, a, b.Public, 5)
+	for _, changed := range changedCells(cell) {
+		rejectInvited(t, b, []int{4, a.Public}, 5, changed)
+	}
 	for place := range cell {
-		for change := 1; change < 256; change++ {
-			changed := slices.Clone(cell)
-			changed[place] ^= byte(change)
-			rejectInvited(t, b, []int{4, a.Public}, 5, changed)
-		}
 		for other := range place {
 			changed := slices.Clone(cell)
 			changed[place], changed[other] = changed[other], changed[place]

@@ -1011,13 +1011,9 @@ func TestOpenStepChanged(t *testing.T) {
 	r := ratchet(77, 20, keptAt(3, 5)...)
 	cells := sealSteps(t, r, bodies)
 	later := checkOpenStep(t, r, 25, cells[5], bodies[5])
-	for place := range 24 {
-		for change := 1; change < 256; change++ {
-			changed := slices.Clone(cells[4])
-			changed[place] ^= byte(change)
-			rejectOpenStep(t, r, 24, changed)
-			rejectOpenStep(t, later, 24, changed)
-		}
+	for _, changed := range changedCells(cells[4]) {
+		rejectOpenStep(t, r, 24, changed)
+		rejectOpenStep(t, later, 24, changed)
 	}
 	checkOpenStep(t, r, 24, cells[4], bodies[4])
 	checkOpenStep(t, later, 24, cells[4], bodies[4])
@@ -1031,20 +1027,31 @@ func TestOpenStepSizes(t *testing.T) {
 	r := ratchet(77, 20, append(keptAt(3), skipped(5, 78))...)
 	ahead, kept := stepCell(77, 20, []byte("hello")), referenceCell(78, 5, plainOf(1, []byte("hello")))
 	for step, cell := range map[int][]byte{20: ahead, 5: kept} {
-		for length := range 24 {
-			rejectOpenStep(t, r, step, cell[:length])
-			rejectOpenStep(t, r, step, cell[24-length:])
-			rejectOpenStep(t, r, step, make([]byte, length))
+		for _, other := range otherSizes(cell) {
+			rejectOpenStep(t, r, step, other)
 		}
-		for _, length := range []int{25, 26, 28, 47, 48, 72, 280, 24 + 1<<16} {
-			rejectOpenStep(t, r, step, extended(cell, length))
-			rejectOpenStep(t, r, step, bytes.Repeat(cell, length/24+1)[:length])
-			rejectOpenStep(t, r, step, append(make([]byte, length-24), cell...))
-		}
-		rejectOpenStep(t, r, step, nil)
-		rejectOpenStep(t, r, step, []byte{})
 		rejectOpenStep(t, r, step, make([]byte, 24))
 		checkOpenStep(t, r, step, cell, []byte("hello"))
+	}
+}
+
+// checkHeads passes cells with a correct check value to accept, with their body, if they say a text, whatever the
+// padding is, and to reject if their kind is another one or their length is beyond its limit.
+func checkHeads(key int, counter int, accept func(cell []byte, body []byte), reject func(cell []byte)) {
+	for c := range 256 {
+		plain := append([]byte{1, 5}, mixed(18, 3)...)
+		plain[19] = byte(c)
+		accept(sealBytes(key, counter, plain), mixed(5, 3))
+		if c != 1 {
+			plain[0] = byte(c)
+			reject(sealBytes(key, counter, plain))
+		}
+		plain[0], plain[1] = 1, byte(c)
+		if c <= 14 {
+			accept(sealBytes(key, counter, plain), plain[2:2+c])
+		} else {
+			reject(sealBytes(key, counter, plain))
+		}
 	}
 }
 
@@ -1066,23 +1073,8 @@ func TestOpenStepOfOtherKinds(t *testing.T) {
 			}
 		}
 	}
-	// kinds and lengths that no cell has, and paddings that do not matter
-	key := referenceMessageKey(77)
-	for c := range 256 {
-		plain := append([]byte{1, 5}, mixed(18, 3)...)
-		plain[19] = byte(c)
-		checkOpenStep(t, ratchet(77, 20), 20, sealBytes(key, 20, plain), mixed(5, 3))
-		if c != 1 {
-			plain[0] = byte(c)
-			rejectOpenStep(t, ratchet(77, 20), 20, sealBytes(key, 20, plain))
-		}
-		plain[0], plain[1] = 1, byte(c)
-		if c <= 14 {
-			checkOpenStep(t, ratchet(77, 20), 20, sealBytes(key, 20, plain), plain[2:2+c])
-		} else {
-			rejectOpenStep(t, ratchet(77, 20), 20, sealBytes(key, 20, plain))
-		}
-	}
+	checkHeads(referenceMessageKey(77), 20, func(cell []byte, body []byte) { checkOpenStep(t, ratchet(77, 20), 20, cell, body) },
+		func(cell []byte) { rejectOpenStep(t, ratchet(77, 20), 20, cell) })
 }
 
 // Each reason for a refusal alone and several together. The cells are those that would be opened if the
